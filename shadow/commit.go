@@ -17,31 +17,39 @@ type plan struct {
 	table []byte       // the bytes of all table pages
 }
 
+// plan answers what a commit would write, with the pages that are free for it. Where data and tables together have no room, the last page of the disk stands for each page that was put: such a plan is only counted.
 func (s *Store) plan() plan {
-	p := plan{laid: maps.Clone(s.now)}
-	for i := range s.Pages() {
-		if s.now[i].at == nowhere {
-			p.fresh = append(p.fresh, i)
+	fresh := s.fresh()
+	if at, e := pages.First(s.used(), len(fresh)); e == api.OK {
+		if p := s.planAt(fresh, at); p.need() <= s.free() {
+			return p
 		}
 	}
-	for k, at := range s.places(len(p.fresh)) {
-		i := p.fresh[k]
-		p.laid[i] = page{at: at, data: s.now[i].data}
+	return s.planAt(fresh, slices.Repeat([]int{s.size - 1}, len(fresh)))
+}
+
+// fresh answers the logical pages that were put since the last commit, rising.
+func (s *Store) fresh() []int {
+	var fresh []int
+	for i := range s.Pages() {
+		if s.now[i].at == nowhere {
+			fresh = append(fresh, i)
+		}
+	}
+	return fresh
+}
+
+// planAt answers the plan in which the fresh logical pages go to the pages at.
+func (s *Store) planAt(fresh, at []int) plan {
+	p := plan{fresh: fresh, laid: maps.Clone(s.now)}
+	for k, i := range fresh {
+		p.laid[i] = page{at: at[k], data: s.now[i].data}
 	}
 	for i := range s.Pages() {
 		p.table = append(p.table, sum.Number(uint64(i))...)
 		p.table = append(p.table, sum.Number(uint64(p.laid[i].at))...)
 	}
 	return p
-}
-
-// places answers where n data pages would go. Where there are not so many free, the last page of the disk stands for each: such a plan is only counted.
-func (s *Store) places(n int) []int {
-	at, e := pages.First(s.used(), n)
-	if e != api.OK {
-		return slices.Repeat([]int{s.size - 1}, n)
-	}
-	return at
 }
 
 // need answers how many pages a commit would write beside the root.

@@ -8,6 +8,7 @@ import (
 	"quire/api"
 	"quire/disk"
 	"quire/shadow"
+	"quire/sum"
 )
 
 func put(t *testing.T, s *shadow.Store, from, to int) {
@@ -97,11 +98,11 @@ func TestRoomWhereThereIsNone(t *testing.T) {
 	// 130 pages, 128 of them free: the last is the page 129, a number of two bytes.
 	_, s := format(t, 4*130)
 	put(t, s, 0, 128)
-	// Just room for the data: pages 2 to 129, 126 numbers of one byte and two of two.
-	room(t, s, 128, 128+3)
+	// Just room for the data, but not for the three table pages beside it: each of the pages has a number of two bytes.
+	room(t, s, 128, 128+4)
 	is(t, "Commit", s.Commit(), api.ErrFull)
 	put(t, s, 128, 129)
-	// No room even for the data: each of the pages has a number of two bytes.
+	// No room even for the data.
 	room(t, s, 128, 129+4)
 	is(t, "Commit", s.Commit(), api.ErrFull)
 	is(t, "Rollback", s.Rollback(), api.OK)
@@ -121,6 +122,57 @@ func TestRoomWhereThereIsNone(t *testing.T) {
 	_, s = format(t, 4*128)
 	put(t, s, 0, 127)
 	room(t, s, 126, 127+3)
+}
+
+// Data and tables together decide whether there is room, just at the edge too.
+func TestRoomAtTheEdge(t *testing.T) {
+	for size := 100; size < 300; size++ {
+		_, s := format(t, 4*size)
+		free := size - 2
+		had := true
+		for n := free - 8; n <= free+1; n++ {
+			is(t, "Rollback", s.Rollback(), api.OK)
+			put(t, s, 0, n)
+			count := func(place func(i int) int) int {
+				bytes := 0
+				for i := range n {
+					bytes += len(sum.Number(uint64(i))) + len(sum.Number(uint64(place(i))))
+				}
+				return n + (bytes+111)/112
+			}
+			need := count(func(i int) int { return i + 2 })
+			fits := need <= free
+			if !fits {
+				need = count(func(int) int { return size - 1 })
+			}
+			room(t, s, free, need)
+			if fits && !had {
+				t.Fatalf("%d pages: %d fit, but fewer do not", size, n)
+			}
+			had = fits
+			if !fits {
+				is(t, "Commit", s.Commit(), api.ErrFull)
+				room(t, s, free, need)
+			}
+		}
+		if had {
+			t.Fatalf("%d pages: all fit", size)
+		}
+	}
+}
+
+// Where nothing was put, no page has another number than its own.
+func TestRoomForTablesOnly(t *testing.T) {
+	_, s := format(t, 4*135)
+	put(t, s, 0, 129) // one logical page and three pages have numbers of two bytes: 262 bytes
+	room(t, s, 133, 132)
+	is(t, "Commit", s.Commit(), api.OK)
+	room(t, s, 1, 3)
+	is(t, "Commit", s.Commit(), api.ErrFull)
+	is(t, "Drop", s.Drop(0), api.OK)
+	room(t, s, 1, 3)
+	put(t, s, 0, 1)
+	room(t, s, 1, 4)
 }
 
 func TestRoomOfASmallDisk(t *testing.T) {

@@ -41,37 +41,49 @@ func (m *model) free() []int {
 	return free
 }
 
-// lay is where each logical page would be, which of them are put, and the table's bytes.
-func (m *model) lay() (at map[int]int, puts []int, table []byte) {
+// lay is where each logical page would be, which of them are put, and the table's bytes: the k-th that is put goes where place says.
+func (m *model) lay(place func(k int) int) (at map[int]int, puts []int, table []byte) {
 	at = map[int]int{}
-	free := m.free()
 	for _, i := range slices.Sorted(maps.Keys(m.now)) {
-		if !m.put[i] {
-			at[i] = m.at[i]
-			continue
+		at[i] = m.at[i]
+		if m.put[i] {
+			at[i] = place(len(puts))
+			puts = append(puts, i)
 		}
-		puts = append(puts, i)
-	}
-	for k, i := range puts {
-		at[i] = len(m.image)/api.PageSize - 1
-		if len(puts) <= len(free) {
-			at[i] = free[k]
-		}
-	}
-	for _, i := range slices.Sorted(maps.Keys(m.now)) {
 		table = binary.AppendUvarint(table, uint64(i))
 		table = binary.AppendUvarint(table, uint64(at[i]))
 	}
 	return at, puts, table
 }
 
-func (m *model) room() (free, need int) {
-	_, puts, table := m.lay()
-	tables := 0
-	for 112*tables < len(table) {
-		tables++
+// lowest tells the k-th page that is free, or the last one where there are not so many.
+func (m *model) lowest() func(k int) int {
+	free := m.free()
+	return func(k int) int {
+		if k < len(free) {
+			return free[k]
+		}
+		return m.last(k)
 	}
-	return len(m.free()), len(puts) + tables
+}
+
+func (m *model) last(int) int {
+	return len(m.image)/api.PageSize - 1
+}
+
+func (m *model) room() (free, need int) {
+	free = len(m.free())
+	for _, place := range []func(int) int{m.lowest(), m.last} {
+		_, puts, table := m.lay(place)
+		need = len(puts)
+		for size := 0; size < len(table); size += 112 {
+			need++
+		}
+		if need <= free {
+			break
+		}
+	}
+	return free, need
 }
 
 func (m *model) commit(t *testing.T) api.Errno {
@@ -79,7 +91,7 @@ func (m *model) commit(t *testing.T) api.Errno {
 	if need > free {
 		return api.ErrFull
 	}
-	at, puts, table := m.lay()
+	at, puts, table := m.lay(m.lowest())
 	tables := m.free()[len(puts):need]
 	for _, i := range puts {
 		m.page(t, at[i], uint32(3+256*i), m.now[i])
