@@ -135,31 +135,37 @@ func (m *model) slide(k, j int) api.Errno {
 	return api.OK
 }
 
-func (m *model) get(i, f int) api.Errno {
+// field is the thing that root i names, if it has a field f.
+func (m *model) field(i, f int) (*thing, api.Errno) {
 	if !m.has(i) {
-		return api.ErrRange
+		return nil, api.ErrRange
 	}
 	o := m.roots[i].to
 	if o == nil {
-		return api.ErrKind
+		return nil, api.ErrKind
 	}
 	if f < 0 || f >= len(o.fields) {
-		return api.ErrRange
+		return nil, api.ErrRange
+	}
+	return o, api.OK
+}
+
+func (m *model) get(i, f int) api.Errno {
+	o, e := m.field(i, f)
+	if e != api.OK {
+		return e
 	}
 	m.roots = append(m.roots, o.fields[f])
 	return api.OK
 }
 
 func (m *model) set(i, f, j int) api.Errno {
-	if !m.has(i) || !m.has(j) {
+	if !m.has(j) {
 		return api.ErrRange
 	}
-	o := m.roots[i].to
-	if o == nil {
-		return api.ErrKind
-	}
-	if f < 0 || f >= len(o.fields) {
-		return api.ErrRange
+	o, e := m.field(i, f)
+	if e != api.OK {
+		return e
 	}
 	if o.raw && m.roots[j].to != nil {
 		return api.ErrKind
