@@ -7,7 +7,6 @@ import (
 
 	"quire/api"
 	"quire/link"
-	"quire/value"
 )
 
 // P18.1: Check
@@ -49,6 +48,7 @@ func refusedEverywhere(t *testing.T, bad []api.Code) {
 	for _, all := range [][]api.Op{nil, ops(opPush(num(1))), ops(opPrim(0)), ops(opCall(0)), ops(opPrim(52)), ops(api.Op{})} {
 		refusesBack(t, bad, all)
 	}
+	sameAsUnsound(t, bad)
 }
 
 func TestNamesThatAreRefused(t *testing.T) {
@@ -85,83 +85,15 @@ func TestValuesThatHoldThemselves(t *testing.T) {
 	within := api.Quot{Items: make([]api.Item, 2)}
 	within.Items[0], within.Items[1] = push(list(within)), push(within)
 	for _, v := range []api.Value{own, within, list(own), quot(push(own))} {
-		bad := codes(code("a", opPush(v)))
-		refusedEverywhere(t, bad)
+		refusedEverywhere(t, codes(code("a", opPush(v))))
 		refusesBack(t, known(), ops(opPush(v)))
-		if !link.Same(bad, bad) || link.Same(bad, codes(code("a", opPush(list())))) {
-			t.Errorf("Same of values that hold themselves")
-		}
-	}
-}
-
-// P18.1: Same
-
-// different answers lists of codes, no two of which are the same.
-func different() [][]api.Code {
-	all := [][]api.Code{
-		nil, known(), known()[:1], known()[1:], codes(code("a")), codes(code("b")), codes(code("a"), code("b")), codes(code("b"), code("a")), codes(code("a"), code("a")), codes(code("")), codes(code("dup")), codes(code("swap")),
-		codes(code("a", opPrim(0), opPrim(1))), codes(code("a", opPrim(1), opPrim(0))), codes(code("a", opPrim(0), opPrim(1), opPrim(1))), codes(code("a", opPrim(0)), code("b", opPrim(1))),
-		codes(code("a"), code("b", opPrim(0))), codes(code("a", opPrim(0)), code("b")),
-	}
-	for _, op := range []api.Op{
-		{}, {N: 1}, {Kind: 4}, {Kind: -1}, opPrim(0), opPrim(1), opPrim(-1), opPrim(52), opPrim(53), opCall(0), opCall(1), opCall(7), opPush(nil),
-		opPush(num(0)), opPush(num(1)), opPush(api.Bool{}), opPush(api.Bool{B: true}), opPush(str("")), opPush(str("a")), opPush(list()), opPush(list(num(1))), opPush(list(num(1), num(1))),
-		opPush(quot()), opPush(quot(push(num(1)))), opPush(quot(call("a"))), opPush(quot(call("b"))), opPush(quot(call("a"), call("b"))), opPush(list(quot(call("a")))), opPush(box(1)), opPush(box(2)),
-		{Kind: api.OPush, N: 1, V: num(1)}, {Kind: api.OPrim, V: num(1)}, {Kind: api.OCall, V: num(1)}, {Kind: api.OCall, V: num(2)},
-	} {
-		all = append(all, codes(code("a", op)))
-	}
-	return all
-}
-
-func TestSame(t *testing.T) {
-	all, again := different(), different()
-	for i := range all {
-		for j := range again {
-			if got := link.Same(all[i], again[j]); got != (i == j) {
-				t.Errorf("Same of %s and %s: %v", tellCodes(all[i]), tellCodes(again[j]), got)
-			}
-		}
-	}
-	// Lists without anything in them are the same, be they nil or not.
-	if !link.Same(nil, codes()) || !link.Same(codes(code("a")), codes(code("a", ops()...))) ||
-		!link.Same(codes(code("a", opPush(api.List{}), opPush(api.Quot{}))), codes(code("a", opPush(list([]api.Value{}...)), opPush(api.Quot{Items: items()})))) {
-		t.Errorf("Same tells lists without anything in them apart")
-	}
-}
-
-// Of values that are not sound, none is told from another, but each from all that are sound.
-func TestSameOfWhatIsNotSound(t *testing.T) {
-	var bad []api.Value
-	for _, v := range badValues() {
-		if value.Check(v) != api.OK {
-			bad = append(bad, v)
-		}
-	}
-	for _, op := range []api.Op{opPush(nil), opPrim(0), opCall(0), {Kind: 9, N: -1}} {
-		with := func(v api.Value) []api.Code {
-			op.V = v
-			return codes(code("a", opPrim(0), op))
-		}
-		for _, v := range bad {
-			for _, w := range bad {
-				if !link.Same(with(v), with(w)) {
-					t.Errorf("Same of %s and %s", short(tell(v)), short(tell(w)))
-				}
-			}
-			for _, w := range []api.Value{num(0), str(""), api.Bool{}, list(), quot(), box(1)} {
-				if link.Same(with(v), with(w)) || link.Same(with(w), with(v)) {
-					t.Errorf("Same of %s and %s", short(tell(v)), tell(w))
-				}
-			}
-		}
 	}
 }
 
 // R1: whatever is handed in, calls answer.
 func TestAnyArguments(t *testing.T) {
 	long := make([]api.Op, 1<<16)
-	for _, all := range append(different(), make([]api.Code, 1<<16), codes(code("a", long...)), codes(api.Code{Name: strings.Repeat("a", 1<<16)})) {
+	for _, all := range append(append(sound(), unsound()...), make([]api.Code, 1<<16), codes(code("a", long...)), codes(api.Code{Name: strings.Repeat("a", 1<<16)})) {
 		link.Check(all)
 		for _, bad := range append(badItems(), nil, make([]api.Item, 1<<16), slices.Repeat(items(call("dup")), 1<<16)) {
 			link.Ops(all, bad)
@@ -171,6 +103,7 @@ func TestAnyArguments(t *testing.T) {
 		}
 		link.Back(all, long)
 		link.Same(all, known())
+		link.Same(known(), all)
 		link.Same(all, all)
 	}
 }
@@ -185,7 +118,7 @@ func TestCallsAreApart(t *testing.T) {
 		means(t, known(), items(call("quad"), call("sq")), opCall(0), opCall(1))
 		links(t, squares(t), known()...)
 		links(t, dictOf(t, "a", "a : sq ( n -- m ) 2 * ;"), code("sq", opPush(num(2)), opPrim(9)))
-		if link.Same(known(), other) || link.Check(known()) != api.OK {
+		if link.Same(known(), other) || !link.Same(known(), known()) || link.Check(known()) != api.OK {
 			t.Errorf("Same or Check answers otherwise than before")
 		}
 	}

@@ -15,8 +15,9 @@ func fits(t *testing.T, all []api.Item, want ...api.Op) {
 	t.Helper()
 	means(t, nil, all, want...)
 	means(t, known(), all, want...)
-	if e := link.Check(codes(code("a"), code("b", want...))); e != api.OK {
-		t.Errorf("Check of %s: %d", short(tellOps(want)), e)
+	made := codes(code("a"), code("b", want...))
+	if e := link.Check(made); e != api.OK || !link.Same(made, codes(code("a"), code("b", want...))) || link.Same(made, made[:1]) {
+		t.Errorf("Check of %s: %d, or Same tells it otherwise", short(tellOps(want)), e)
 	}
 }
 

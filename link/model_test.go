@@ -326,18 +326,12 @@ func soundCodes(all []api.Code) bool {
 	return true
 }
 
-// withoutUnsound answers codes in which no value stands for each that is not sound, as Same does not tell them apart.
-func withoutUnsound(all []api.Code) []api.Code {
-	all = slices.Clone(all)
-	for i := range all {
-		all[i].Ops = slices.Clone(all[i].Ops)
-		for j, op := range all[i].Ops {
-			if value.Check(op.V) != api.OK {
-				all[i].Ops[j].V = nil
-			}
-		}
+// sameCodes answers whether both are not sound, or both are, and the same.
+func sameCodes(a, b []api.Code) bool {
+	if !soundCodes(a) || !soundCodes(b) {
+		return soundCodes(a) == soundCodes(b)
 	}
-	return all
+	return tellCodes(a) == tellCodes(b)
 }
 
 // P18.1 and P18.2: codes and operations that are sound, and such that are nearly so.
@@ -355,8 +349,12 @@ func TestSoundnessByChance(t *testing.T) {
 		if got := link.Check(all) == api.OK; got != sound {
 			t.Fatalf("Check of %s: %v", tellCodes(all), got)
 		}
-		if got := link.Same(fine, all); got != (tellCodes(fine) == tellCodes(withoutUnsound(all))) {
-			t.Fatalf("Same of %s and %s: %v", tellCodes(fine), tellCodes(all), got)
+		for _, other := range [][]api.Code{fine, all, c.spoilt(fine), c.spoilt(nil)} {
+			both := fmt.Sprint("Same ", sound, " ", soundCodes(other), " ", sameCodes(all, other))
+			if got := link.Same(all, other); got != sameCodes(all, other) || link.Same(other, all) != got {
+				t.Fatalf("Same of %s and %s: %v", tellCodes(all), tellCodes(other), got)
+			}
+			seen[both]++
 		}
 		var words []string
 		for _, code := range all {
@@ -378,7 +376,7 @@ func TestSoundnessByChance(t *testing.T) {
 		seen[fmt.Sprint("Ops ", e)]++
 		seen[fmt.Sprint("Back ", sound, " ", err)]++
 	}
-	for _, what := range []string{"Check true", "Check false", "Ops 0", "Ops 1", "Ops 10", "Back true 0", "Back true 1", "Back false 1"} {
+	for _, what := range []string{"Check true", "Check false", "Ops 0", "Ops 1", "Ops 10", "Back true 0", "Back true 1", "Back false 1", "Same true true true", "Same true true false", "Same true false false", "Same false true false", "Same false false true"} {
 		if seen[what] < 100 {
 			t.Errorf("%q came %d times: %v", what, seen[what], seen)
 		}

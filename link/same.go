@@ -7,19 +7,19 @@ import (
 	"quire/value"
 )
 
+// sameCode answers whether codes of two sound lists of codes are the same.
 func sameCode(a, b api.Code) bool {
 	return a.Name == b.Name && slices.EqualFunc(a.Ops, b.Ops, sameOp)
 }
 
 func sameOp(a, b api.Op) bool {
-	return a.Kind == b.Kind && a.N == b.N && sameValue(a.V, b.V)
-}
-
-// sameValue answers whether two values are equal. What is not sound can't be compared, so two such count as one; so does no value at all.
-func sameValue(a, b api.Value) bool {
-	equal, e := value.Equal(a, b)
-	if e != api.OK {
-		return value.Check(a) != api.OK && value.Check(b) != api.OK
+	if a.Kind != b.Kind || a.N != b.N {
+		return false
 	}
+	// Sound operations of the other kinds have no value, and nil can't be compared.
+	if a.Kind != api.OPush {
+		return true
+	}
+	equal, _ := value.Equal(a.V, b.V)
 	return equal
 }
